@@ -27,7 +27,7 @@ type wait struct {
 }
 
 var (
-	tokens    = regexp.MustCompile(`(?s)^(?:\|\||&&|[=!<>]=|[0-9]+(?:\.[0-9]*)?|\$[A-Za-z0-9_]*|[A-Za-z_][A-Za-z0-9_]*|.)`)
+	tokens    = regexp.MustCompile(`(?s)^(?:\|\||&&|[=!<>]=|[0-9]+(?:\.[0-9]+)?|\$[A-Za-z0-9_]*|[A-Za-z_][A-Za-z0-9_]*|.)`)
 	modelRef  = regexp.MustCompile(`^\$[A-Z][A-Za-z0-9_]{0,15}$`)
 	modelNum  = regexp.MustCompile(`^(0|[1-9][0-9]{0,11}|1000000000000)$|^(0|[1-9][0-9]{0,11})\.[0-9]{0,2}[1-9]$`)
 	modelWord = regexp.MustCompile(`^(null|nan|inf)$`)
@@ -214,7 +214,7 @@ func TestParseAgainstTheDocument(t *testing.T) {
 // or cuts the text.
 func spoiled(r *rand.Rand, s string) string {
 	more := []string{
-		" ", "(", ")", "-", "!", "=", "<", ">", "&", "|", "&&", "||", "$", "$A", "$a", ".", "1", "0", "10", "a", "_", "abs", "floor(", "is_nan", "nan", "inf",
+		" ", "(", ")", "-", "!", "=", "<", ">", "&", "|", "&&", "||", "$", "$A", "$a", ".", "1.", "1", "0", "10", "a", "_", "abs", "floor(", "is_nan", "nan", "inf",
 		"\t", "\n", "\x00", "ä", "\xff", "%", "[", "A", "+", "*", "/", "==", "!=", "<=", strings.Repeat("(", 30), strings.Repeat("-", 30), strings.Repeat("abs(!", 16),
 	}
 	at := r.Intn(len(s) + 1)

@@ -59,8 +59,8 @@ const (
 	wordInf  = "inf"
 )
 
-// firstToken is the token that s begins with. What could go on with it belongs
-// to it, also where that spoils it.
+// firstToken is the token that s begins with. All bytes of its form belong to it,
+// also where they spoil it: a word's, a ref's, a number's digits.
 func firstToken(s string) token {
 	switch {
 	case s == "":
@@ -84,15 +84,23 @@ func firstRef(s string) token {
 }
 
 func firstNumber(s string) token {
-	size := run(s, isDigit)
-	if strings.HasPrefix(s[size:], ".") {
-		size += 1 + run(s[size+1:], isDigit)
-	}
+	size := numberSize(s)
 	v, err := value.Parse(s[:size])
 	if err != api.OK {
 		return token{}
 	}
 	return token{kind: tokenValue, size: size, value: v}
+}
+
+// numberSize leaves out a point that no digit follows: the digits ahead of it are
+// a number of their own, and the point begins no token.
+func numberSize(s string) int {
+	whole := run(s, isDigit)
+	behind, pointed := strings.CutPrefix(s[whole:], ".")
+	if part := run(behind, isDigit); pointed && part > 0 {
+		return whole + len(".") + part
+	}
+	return whole
 }
 
 func ofWord(word string) token {

@@ -63,7 +63,7 @@ func TestParseOfWrongTokens(t *testing.T) {
 func TestParseOfNoTokens(t *testing.T) {
 	none := []string{
 		"&", "|", "=", "$", "$a", "$_", "$1", "$aB", "$-", "$(", "$$A", "$" + strings.Repeat("A", api.MaxRef+1),
-		"1.", "0.", "00", "01", "007", "0.0", "1.0", "1.50", "1.100", "1.2345", "0.0001", "1000000000000.001", "1000000000001", "1000000000000.0", "9999999999999", "18446744073709551616", strings.Repeat("1", 500),
+		"00", "01", "007", "0.0", "1.0", "1.50", "1.100", "1.2345", "0.0001", "1000000000000.001", "1000000000001", "1000000000000.0", "9999999999999", "18446744073709551616", strings.Repeat("1", 500),
 		"a", "x1", "_", "_1", "A", "AB", "Null", "NULL", "NaN", "Inf", "true", "absx", "ab", "is_", "isnan", "is_nul", "nul", "n", "i", "Abs", "ceil", "min", "last",
 		".", ".5", ",", ";", "%", "^", "~", "?", ":", "[", "]", "{", "}", "#", "@", "\\", "'", "\"", "`", "\t", "\n", "\r", "\v", "\f", "\x00", "\x1f", "\x7f", "\x80", "\xa0", "\xff", "ä", "\u00a0", "\u2003", "＋", "≤",
 	}
@@ -72,6 +72,29 @@ func TestParseOfNoTokens(t *testing.T) {
 			for _, end := range []string{"", " ", " 1", " + 1", ")"} {
 				refuses(t, begin+token+end, api.ErrExpr, len(begin))
 			}
+		}
+	}
+}
+
+// P11.1, P11.2: of a point that no digit follows, the digits ahead are a number,
+// and the point is wrong where it stands, if that number may stand there.
+func TestParseOfPointsBehindNumbers(t *testing.T) {
+	ends := []string{"", " ", ".", "..", ".2", " 5", "+2", " + 2", ")", "x", "e5", "_", "$A", "-1", "null", "\t", "\x00", "ä"}
+	for _, number := range []string{"0", "1", "9", "12", "1.5", "0.001", "999999999999.999", "1000000000000"} {
+		for _, end := range ends {
+			for _, begin := range []string{"", " ", "(", "((", "-", "!", "abs(", "2 + ", "$A * ", "1 < ", "1.5-", "null && ", "(1) || "} {
+				refuses(t, begin+number+"."+end, api.ErrExpr, len(begin+number))
+			}
+			// The number is wrong already, whatever is behind it.
+			for _, begin := range []string{"1 ", "$A ", "(1) ", "abs ", "1 + $A ", "(1 ", "abs(1 "} {
+				refuses(t, begin+number+"."+end, api.ErrExpr, len(begin))
+			}
+		}
+	}
+	for _, spoiled := range []string{"00", "01", "1.0", "1.50", "1.2345", "1000000000001", "1000000000000.001"} {
+		for _, end := range ends {
+			refuses(t, spoiled+"."+end, api.ErrExpr, 0)
+			refuses(t, "2 + "+spoiled+"."+end, api.ErrExpr, 4)
 		}
 	}
 }
@@ -153,13 +176,13 @@ func TestParseOfWhatDoesNotNest(t *testing.T) {
 func TestParseOfWrongAndDeep(t *testing.T) {
 	for _, begin := range []string{"(", "-", "!", "abs("} {
 		deep := strings.Repeat(begin, api.MaxNest+1)
-		for _, s := range []string{"1", "(", "-", "!", "abs", "abs 1", "$A", "null", "1?", "(?", "1)))", "1 2"} {
+		for _, s := range []string{"1", "(", "-", "!", "abs", "abs 1", "$A", "null", "1?", "1.", "10.x", "(?", "1)))", "1 2"} {
 			refuses(t, deep+s, api.ErrDeep, len(deep))
 			refuses(t, deep+"  "+s, api.ErrDeep, len(deep)+2)
 			refuses(t, "1 2 "+deep+s, api.ErrExpr, 2)
 			refuses(t, "1 + "+deep+s, api.ErrDeep, 4+len(deep))
 		}
-		for _, s := range []string{"", ")", "*", "&", "$a", "1.", "x", "?", "\t1", "01"} {
+		for _, s := range []string{"", ")", "*", "&", "$a", "x", "?", "\t1", "01", "01.", ".5"} {
 			refuses(t, deep+s, api.ErrExpr, len(deep))
 			refuses(t, deep+"  "+s, api.ErrExpr, len(deep)+2)
 		}
